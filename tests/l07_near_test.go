@@ -306,11 +306,11 @@ func TestKnownRulesAreFound(t *testing.T) {
 func TestRunRulesFollowTheirRule(t *testing.T) {
 	s := &sweep{}
 	for range 200 {
-		n := 1 + s.below(impl.MaxSeries)
+		n, count := 1+s.below(impl.MaxSeries), s.below(impl.MaxRule+1)
 		rule, first := s.calm(0.25, n), s.pairs(s.small, n)
-		list, ok := impl.RunRule(rule, first, impl.MaxSeries)
-		if !ok || len(list) != impl.MaxSeries {
-			t.Fatalf("RunRule %v and %v: %v, %v", rule, first, list, ok)
+		list, ok := impl.RunRule(rule, first, int64(count))
+		if !ok || len(list) != count {
+			t.Fatalf("RunRule %v, %v and %v: %v, %v", rule, first, count, list, ok)
 		}
 		for k, got := range list {
 			want := complex128(0)
@@ -322,7 +322,7 @@ func TestRunRulesFollowTheirRule(t *testing.T) {
 			if k < n {
 				want = complex128(first[k])
 			}
-			wantClose(t, plain("the number ", k, " of RunRule"), got, complex64(want), nearTerm)
+			wantClose(t, plain("the number ", k, " of RunRule"), got, complex64(want), nearTerm*max(1, impl.LongOf(complex64(want))))
 		}
 	}
 }

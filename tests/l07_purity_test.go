@@ -81,7 +81,7 @@ func callsOfRules() []seriesCall {
 		{"FollowRule", "RPm", func(v seriesDraw) realOutcome {
 			return tellList(impl.FollowRule(v.rule, v.first, v.prime, v.most))
 		}},
-		{"RunRule", "wc", func(v seriesDraw) realOutcome { return tellList(impl.RunRule(v.weights, v.begin, v.count)) }},
+		{"RunRule", "wm", func(v seriesDraw) realOutcome { return tellList(impl.RunRule(v.weights, v.begin, v.most)) }},
 		{"SpeedUp", "a", func(v seriesDraw) realOutcome { return tellList(impl.SpeedUp(v.a)) }},
 		{"StoreSaved", "S", func(v seriesDraw) realOutcome {
 			if len(v.saved) == 0 {

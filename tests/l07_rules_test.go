@@ -1,6 +1,7 @@
 package tests
 
 import (
+	"slices"
 	"testing"
 
 	"loop.example/g01358/impl"
@@ -129,6 +130,27 @@ func TestNoFollowRule(t *testing.T) {
 	}
 }
 
+// sumsOfTwo returns n numbers, each of them the rounded sum of the two before it.
+func sumsOfTwo(n int) []complex64 {
+	list := make([]complex64, n)
+	before, next := float32(1), float32(1)
+	for i := range list {
+		list[i] = complex(before, 0)
+		before, next = next, before+next
+	}
+	return list
+}
+
+// powersFrom returns n numbers, each of them as many times the one before it.
+func powersFrom(first, by float32, n int) []complex64 {
+	list := make([]complex64, n)
+	for i := range list {
+		list[i] = complex(first, 0)
+		first *= by
+	}
+	return list
+}
+
 func TestRunRule(t *testing.T) {
 	const far = 0x1p24
 	cases := []struct {
@@ -144,6 +166,13 @@ func TestRunRule(t *testing.T) {
 		// The sum goes from the last number before on.
 		{[]complex64{1, 1, 1}, []complex64{far, 1, 1}, 4, []complex64{far, 1, 1, far + 2}}, {[]complex64{1, 1, 1}, []complex64{1, 1, far}, 4, []complex64{1, 1, far, far}},
 		{[]complex64{complex(greatest, 0)}, []complex64{complex(greatest, 0)}, 1, []complex64{complex(greatest, 0)}},
+		// A count of 0 leaves out even the first ones.
+		{[]complex64{1}, []complex64{2}, 0, nil}, {[]complex64{1, 1}, []complex64{4, 5}, 0, nil}, {repeated[complex64](1, impl.MaxSeries), countUp(1, impl.MaxSeries), 0, nil}, {[]complex64{complex(greatest, 0)}, []complex64{complex(greatest, 0)}, 0, nil},
+		// Numbers go on behind as many as a rule can have.
+		{[]complex64{1}, []complex64{2}, impl.MaxSeries + 1, repeated[complex64](2, impl.MaxSeries+1)}, {[]complex64{1, 1}, []complex64{1, 1}, impl.MaxRule, sumsOfTwo(impl.MaxRule)}, {[]complex64{1, 1}, []complex64{1, 1}, impl.MaxRule - 1, sumsOfTwo(impl.MaxRule - 1)},
+		{repeated[complex64](1, impl.MaxSeries), countUp(1, impl.MaxSeries), impl.MaxSeries + 2, append(countUp(1, impl.MaxSeries), 136, 271)}, {append(make([]complex64, impl.MaxSeries-1), 1), countUp(1, impl.MaxSeries), impl.MaxRule, slices.Repeat(countUp(1, impl.MaxSeries), 4)},
+		// The last number is nearly too great.
+		{[]complex64{2}, []complex64{0x1p64}, impl.MaxRule, powersFrom(0x1p64, 2, impl.MaxRule)}, {[]complex64{4}, []complex64{2}, impl.MaxRule, powersFrom(2, 4, impl.MaxRule)}, {[]complex64{4}, []complex64{4}, impl.MaxRule - 1, powersFrom(4, 4, impl.MaxRule-1)},
 	}
 	for _, c := range cases {
 		got, ok := impl.RunRule(c.rule, c.first, c.count)
@@ -157,7 +186,7 @@ func TestNoRunRule(t *testing.T) {
 		got, ok := impl.RunRule(rule, first, count)
 		wantNoList(t, plain("RunRule ", rule, ", ", first, " and ", count), got, ok)
 	}
-	for _, count := range []int64{1, 2, 5, impl.MaxSeries} {
+	for _, count := range []int64{0, 1, 2, 5, impl.MaxSeries, impl.MaxSeries + 1, impl.MaxRule} {
 		for _, list := range noSeries(0) {
 			fails(list, make([]complex64, len(list)), count)
 			fails(make([]complex64, len(list)), list, count)
@@ -166,7 +195,7 @@ func TestNoRunRule(t *testing.T) {
 			fails(make([]complex64, lengths[0]), make([]complex64, lengths[1]), count)
 		}
 	}
-	for _, count := range append(farNumbers(), -1, 0, impl.MaxSeries+1, impl.MaxRule) {
+	for _, count := range append(farNumbers(), -1, impl.MaxRule+1) {
 		fails([]complex64{1}, []complex64{1}, count)
 		fails(nil, nil, count)
 		fails(repeated[complex64](1, impl.MaxSeries), repeated[complex64](1, impl.MaxSeries), count)
@@ -174,6 +203,8 @@ func TestNoRunRule(t *testing.T) {
 	fails([]complex64{0x1p64}, []complex64{0x1p64}, 2)
 	fails([]complex64{0x1p30}, []complex64{1}, 6)
 	fails([]complex64{1, 1}, []complex64{complex(greatest, 0), complex(greatest, 0)}, 3)
+	fails([]complex64{4}, []complex64{4}, impl.MaxRule)
+	fails([]complex64{complex(0, 2)}, []complex64{0x1p65}, impl.MaxRule)
 }
 
 func TestSpeedUp(t *testing.T) {

@@ -166,7 +166,7 @@ func ruleCases() []seriesCase {
 	return []seriesCase{
 		{"RuleOver", 0x4540d3cd2f033e9b, func(d *digest, v seriesDraw) { d.integers(impl.RuleOver(v.list, v.prime)) }},
 		{"FollowRule", 0xfd2ed58d5d1cf77a, func(d *digest, v seriesDraw) { d.integers(impl.FollowRule(v.rule, v.first, v.prime, v.most)) }},
-		{"RunRule", 0xa12024026974229, func(d *digest, v seriesDraw) { d.list(impl.RunRule(v.weights, v.begin, v.count)) }},
+		{"RunRule", 0xad38e077633a9752, func(d *digest, v seriesDraw) { d.list(impl.RunRule(v.weights, v.begin, v.most)) }},
 		{"SpeedUp", 0x78900daac4ac2c61, func(d *digest, v seriesDraw) { d.list(impl.SpeedUp(v.a)) }},
 		{"ValidSaved", 0x7cba16d65163035f, func(d *digest, v seriesDraw) {
 			for _, saved := range v.saved {
